@@ -170,12 +170,24 @@ func TestCheckFindsTheOne(t *testing.T) {
 	}
 }
 
-// Of a greatest variable that no circuit has, any list is refused: literals that would lie within it, and no literals.
+// Greatest variables that no circuit has.
+func noGreatest() []int {
+	return []int{-1, -2, -edge, math.MinInt, math.MinInt + 1, api.MaxVar + 1, edge, math.MaxInt / 2, math.MaxInt}
+}
+
+// Of a greatest variable that no circuit has, any number is refused: one that would lie within it, too.
 func TestCheckOfNoGreatestVariable(t *testing.T) {
-	for _, max := range []int{-1, -2, -edge, math.MinInt, math.MinInt + 1, api.MaxVar + 1, edge, math.MaxInt / 2, math.MaxInt} {
-		for _, l := range [][]int{nil, {}, {0}, {1}, {2, 3}, {-1}, {math.MinInt}, {2*api.MaxVar + 1}, {math.MaxInt}} {
+	for _, max := range noGreatest() {
+		for _, l := range [][]int{{0}, {1}, {2, 3}, {-1}, {math.MinInt}, {2*api.MaxVar + 1}, {math.MaxInt}} {
 			checkChecks(t, []checkCase{{max, l, api.ErrRange}})
 		}
+	}
+}
+
+// Of no literals none is out of range, whatever the greatest variable is.
+func TestCheckOfNone(t *testing.T) {
+	for _, max := range append(noGreatest(), 0, 1, api.MaxVar-1, api.MaxVar) {
+		checkChecks(t, []checkCase{{max, nil, api.OK}, {max, []int{}, api.OK}})
 	}
 }
 
