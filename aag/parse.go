@@ -12,7 +12,7 @@ import (
 const (
 	// kinds are what names may be of, an octet each.
 	kinds = "ilobc"
-	// comment is the line behind which nothing is read.
+	// comment is the line at which the reading ends.
 	comment = "c"
 )
 
@@ -41,7 +41,7 @@ type sizes struct {
 	most, inputs, latches, outputs, ands, bads, invars int
 }
 
-// Parse reads what Print writes, and no further than to a line of a single c; it tells how many lines it read, or where the fault is.
+// Parse reads what Print writes, up to a line of a single c; it tells how many lines stand ahead of that c, or where the fault is.
 func Parse(s string) (c api.Circuit, lines int, told api.Errno) {
 	if len(s) > api.MaxText {
 		return api.Circuit{}, 0, api.ErrLong
@@ -183,14 +183,10 @@ func (r *reader) ands(n int) []api.And {
 	return list
 }
 
-// names takes all lines that are left, or those up to a single c, and that one.
+// names takes all lines that are left, or those up to a single c; that one is left, as it is none of the circuit's and does not count.
 func (r *reader) names() []api.Name {
 	var list []api.Name
-	for !r.ended() {
-		if r.line() == comment {
-			r.take()
-			break
-		}
+	for !r.ended() && r.line() != comment {
 		list = append(list, r.name())
 	}
 	return list

@@ -54,9 +54,9 @@ func TestParseLong(t *testing.T) {
 	padded := func(text string, length int) string {
 		return text + strings.Repeat("x", length-len(text))
 	}
-	read(t, padded(nothing+"c\n", api.MaxText), api.Circuit{}, 2)
+	read(t, padded(nothing+"c\n", api.MaxText), api.Circuit{}, 1)
 	refused(t, padded(nothing+"c\n", api.MaxText+1), 0, api.ErrLong)
-	read(t, sampleText()+padded("c\n\n\n", api.MaxText-len(sampleText())), sample(), sampleEnd+1)
+	read(t, sampleText()+padded("c\n\n\n", api.MaxText-len(sampleText())), sample(), sampleEnd)
 	refused(t, sampleText()+padded("c\n\n\n", api.MaxText+1-len(sampleText())), 0, api.ErrLong)
 	// Whatever the text is, ErrLong goes ahead.
 	refused(t, strings.Repeat("\n", api.MaxText), 0, api.ErrSyntax)
@@ -256,18 +256,18 @@ func TestParseOddNames(t *testing.T) {
 	refused(t, sampleText()+"i0 x\n", sampleEnd+1, api.ErrState)
 }
 
-// A line of a single c behind the ands ends the text, and is the last line that counts.
+// A line of a single c behind the ands ends the text, and is none of the lines that count.
 func TestParseComment(t *testing.T) {
 	for n := sampleNames; n <= sampleEnd; n++ {
 		want := sample()
 		want.Names = want.Names[:n-sampleNames]
 		begin := textOf(sampleLines()[:n]...) + "c\n"
 		for _, rest := range []string{"", "c", "c\n", "x", "x\n", "\n\n\n", "i0 request\n", " ", "\x00\xff", "c4 c4\nc\n", sampleText(), textOf(sampleLines()[n:]...)} {
-			read(t, begin+rest, want, n+1)
+			read(t, begin+rest, want, n)
 		}
 	}
-	read(t, nothing+"c\n", api.Circuit{}, 2)
-	read(t, nothing+"c\nc\nc\n", api.Circuit{}, 2)
+	read(t, nothing+"c\n", api.Circuit{}, 1)
+	read(t, nothing+"c\nc\nc\n", api.Circuit{}, 1)
 }
 
 // Ahead of the names, a single c is none.
@@ -278,7 +278,7 @@ func TestParseCommentTooEarly(t *testing.T) {
 	}
 }
 
-// Circuits that may not be have a form, and all their lines count, up to a single c.
+// Circuits that may not be have a form, and their lines count, up to a single c and without it.
 func TestParseState(t *testing.T) {
 	wrong := []string{
 		"aag 2049 0 0 0 0 0 0\n", "aag 1099511627776 0 0 0 0 0 0\n",
@@ -292,8 +292,8 @@ func TestParseState(t *testing.T) {
 	for _, text := range wrong {
 		lines := strings.Count(text, "\n")
 		refused(t, text, lines, api.ErrState)
-		refused(t, text+"c\n", lines+1, api.ErrState)
-		refused(t, text+"c\nx\n\nx", lines+1, api.ErrState)
+		refused(t, text+"c\n", lines, api.ErrState)
+		refused(t, text+"c\nx\n\nx", lines, api.ErrState)
 	}
 	read(t, "aag 0 0 0 64 0 0 0\n"+strings.Repeat("0\n", 64), api.Circuit{Outputs: make([]int, 64)}, 65)
 }
@@ -335,9 +335,11 @@ func checkAnswer(t *testing.T, text string) {
 	lines := strings.SplitAfter(text, "\n")
 	switch e {
 	case api.OK:
-		read := strings.TrimSuffix(strings.Join(lines[:n], ""), "\nc\n")
-		if back, f := aag.Print(c); f != api.OK || strings.TrimSuffix(back, "\n") != strings.TrimSuffix(read, "\n") {
+		if back, f := aag.Print(c); f != api.OK || back != strings.Join(lines[:n], "") {
 			t.Errorf("P4.2: the text %q comes back as %q, %d", text, back, f)
+		}
+		if rest := strings.Join(lines[n:], ""); rest != "" && !strings.HasPrefix(rest, "c\n") {
+			t.Errorf("P4.1: Parse(%q) = %d, and no single c stands there", text, n)
 		}
 	case api.ErrShort:
 		if n != strings.Count(text, "\n") {
