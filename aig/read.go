@@ -172,11 +172,10 @@ func (r *reader) literals(n int) []int {
 	return list
 }
 
-// and takes the numbers of an and.
+// and takes the numbers of an and. Where they lead below 0, or nowhere below l, the circuit is not ordered, which is asked at the end.
 func (r *reader) and(l int) api.And {
 	left := l - r.number()
 	right := left - r.number()
-	r.need(right >= 0)
 	return api.And{Lit: l, Left: left, Right: right}
 }
 
